@@ -639,6 +639,12 @@ outer:
 	}
 }
 
+func TestWalkByNobody(t *testing.T) {
+	for _, p := range []string{"", "a/b", "A"} {
+		Walk(p)(nil) // it must not panic
+	}
+}
+
 // P5.5
 
 func TestCleanOfAPathIsIt(t *testing.T) {
