@@ -322,6 +322,59 @@ func TestDecodeByHand(t *testing.T) {
 	}
 }
 
+// ahead is what may stand ahead of a text within a batch: it ends where that text's length begins. The texts are keys and values, the first one and later ones.
+func ahead() []string {
+	return []string{
+		"\x01\x00", "\x01\x01", // the first key, of a change with a value and of one without
+		"\x02\x00", "\x40\x01",
+		"\x01\x00\x01k", // the first value
+		"\x01\x00\x40" + long('k', 64),
+		"\x02\x01\x01k\x01", "\x02\x00\x01k\x01v\x00", // the second change's key
+		"\x02\x01\x01k\x00\x01l", "\x02\x00\x01k\x80\x01" + long('v', 128) + "\x00\x01l", // the second change's value
+	}
+}
+
+// short is so many bytes with a length ahead of them that tells more.
+func short(there, more int) string {
+	return string(binary.AppendUvarint(nil, uint64(there+more))) + long('a', there)
+}
+
+// A text of which some bytes are missing at the end: nothing stands behind those that are there, also in memory that they fill to its end.
+func TestDecodeOfTextsThatEndTooSoon(t *testing.T) {
+	isNoBytes(t, "\x01\x00\x0eaaaaaaaaaaaaa")
+	sizes := map[int]int{} // by how many bytes a length has
+	for _, begin := range ahead() {
+		for there := range 300 {
+			for _, more := range []int{1, 2, 3, 4, 9, 10, 11, 64, 1000, 1 << 20, math.MaxInt32} {
+				s := begin + short(there, more)
+				isNoBytes(t, s)
+				isNoBytes(t, (s + "aaaa")[:len(s)]) // those behind it in its memory are not its own
+				sizes[len(s)-len(begin)-there]++
+			}
+		}
+	}
+	if sizes[1] < 1000 || sizes[2] < 1000 {
+		t.Errorf("lengths of one byte came %d times, of two %d times", sizes[1], sizes[2])
+	}
+}
+
+// The same texts are right as soon as all their bytes are there.
+func TestDecodeOfTextsThatEndInTime(t *testing.T) {
+	found := 0
+	for _, begin := range ahead() {
+		for there := range 300 {
+			for _, end := range []string{"", "\x00"} { // of a key the length of an empty value
+				if isAsParsed(t, begin+short(there, 0)+end) {
+					found++
+				}
+			}
+		}
+	}
+	if found < 1000 {
+		t.Errorf("only %d batches", found)
+	}
+}
+
 // isAsParsed holds Decode against the test's own way to read.
 func isAsParsed(t *testing.T, s string) bool {
 	t.Helper()
